@@ -19,14 +19,21 @@ func rowOf(rows [][]int, node int) []int {
 	return nil
 }
 
-// affected is the promise of Affected.
+// distOf returns the distance of a node as a list, which is empty if it is missing.
+func distOf(dist []int, node int) []int {
+	if node < len(dist) {
+		return dist[node : node+1]
+	}
+	return nil
+}
+
+// affected is the promise of Affected for trees whose lists are those of at most the first 200 nodes.
 func affected(a, b api.Tree) []int {
 	var l []int
-	for node := 0; node < len(a.Dist) || node < len(b.Dist); node++ {
-		switch {
-		case node >= len(a.Dist) || node >= len(b.Dist), a.Dist[node] != b.Dist[node],
-			!slices.Equal(rowOf(a.Hops, node), rowOf(b.Hops, node)),
-			!slices.Equal(rowOf(a.Parents, node), rowOf(b.Parents, node)):
+	for node := range 200 {
+		if !slices.Equal(distOf(a.Dist, node), distOf(b.Dist, node)) ||
+			!slices.Equal(rowOf(a.Hops, node), rowOf(b.Hops, node)) ||
+			!slices.Equal(rowOf(a.Parents, node), rowOf(b.Parents, node)) {
 			l = append(l, node)
 		}
 	}
@@ -78,12 +85,65 @@ func TestAffectedRows(t *testing.T) {
 		{full, api.Tree{Dist: full.Dist, Hops: full.Hops, Parents: rows([]int{1}, []int{0}, []int{1})}, []int{0}},
 		{api.Tree{Dist: []int{0}, Hops: rows(nil), Parents: rows([]int{})}, api.Tree{Dist: []int{0}, Hops: rows([]int{})}, nil},
 		{api.Tree{Dist: []int{math.MinInt, math.MaxInt}}, api.Tree{Dist: []int{math.MaxInt, math.MaxInt}}, []int{0}},
+		{api.Tree{Dist: []int{0}}, api.Tree{}, []int{0}},
+		{api.Tree{Dist: []int{0}}, api.Tree{Hops: rows([]int{0})}, []int{0}},
 	} {
 		if l := ispf.Affected(c.a, c.b); !slices.Equal(l, c.want) {
 			t.Errorf("Affected(%v, %v) = %v, want %v", c.a, c.b, l, c.want)
 		}
 		if l := ispf.Affected(c.b, c.a); !slices.Equal(l, c.want) {
 			t.Errorf("Affected(%v, %v) = %v, want %v", c.b, c.a, l, c.want)
+		}
+	}
+}
+
+// P12.2: nodes that neither tree has a distance of, with lists that differ, are equal, empty or missing.
+func TestAffectedBeyondDist(t *testing.T) {
+	rows := func(lists ...[]int) [][]int { return lists }
+	for _, c := range []struct {
+		a, b api.Tree
+		want []int
+	}{
+		{api.Tree{Hops: rows([]int{1})}, api.Tree{}, []int{0}},
+		{api.Tree{Parents: rows(nil, []int{0})}, api.Tree{}, []int{1}},
+		{api.Tree{Hops: rows(nil, []int{1})}, api.Tree{Parents: rows(nil, []int{1})}, []int{1}},
+		{api.Tree{Hops: rows([]int{1}, []int{2})}, api.Tree{Hops: rows([]int{1}, []int{3})}, []int{1}},
+		{api.Tree{Parents: rows([]int{1}, []int{2})}, api.Tree{Parents: rows([]int{1})}, []int{1}},
+		{api.Tree{Hops: rows([]int{1}), Parents: rows([]int{2})}, api.Tree{Hops: rows([]int{1}), Parents: rows([]int{2})}, nil},
+		{api.Tree{Hops: rows(nil, []int{}), Parents: rows([]int{}, nil, nil)}, api.Tree{}, nil},
+		{api.Tree{Dist: []int{0}, Hops: rows(nil, nil, []int{5})}, api.Tree{Dist: []int{0}}, []int{2}},
+		{api.Tree{Dist: []int{0}, Hops: rows(nil, nil, nil)}, api.Tree{Dist: []int{1}, Parents: rows(nil, nil)}, []int{0}},
+		{api.Tree{Dist: []int{0, 1}}, api.Tree{Dist: []int{0}, Parents: rows(nil, nil, nil, []int{0})}, []int{1, 3}},
+	} {
+		if l := ispf.Affected(c.a, c.b); !slices.Equal(l, c.want) {
+			t.Errorf("Affected(%v, %v) = %v, want %v", c.a, c.b, l, c.want)
+		}
+		if l := ispf.Affected(c.b, c.a); !slices.Equal(l, c.want) {
+			t.Errorf("Affected(%v, %v) = %v, want %v", c.b, c.a, l, c.want)
+		}
+	}
+}
+
+// anyLists returns few lists, most of them empty.
+func anyLists(r *rand.Rand) [][]int {
+	lists := make([][]int, r.IntN(5))
+	for i := range lists {
+		lists[i] = make([]int, r.IntN(5)/3)
+	}
+	return lists
+}
+
+// P12.2: trees whose parts have any lengths.
+func TestAffectedOfAnyTrees(t *testing.T) {
+	r := rand.New(rand.NewPCG(12, 22))
+	for range 20000 {
+		a := api.Tree{Dist: make([]int, r.IntN(5)), Hops: anyLists(r), Parents: anyLists(r)}
+		b := api.Tree{Dist: make([]int, r.IntN(5)), Hops: anyLists(r), Parents: anyLists(r)}
+		for i := range b.Dist {
+			b.Dist[i] = r.IntN(5) / 4
+		}
+		if l, want := ispf.Affected(a, b), affected(a, b); !slices.Equal(l, want) {
+			t.Fatalf("Affected(%v, %v) = %v, want %v", a, b, l, want)
 		}
 	}
 }
